@@ -135,13 +135,19 @@ func TestAsk(t *testing.T) {
 	}
 	// What was refused is not counted.
 	do(t, c, askFirst, api.Event{Kind: api.EvAsk, Id: 1, A: classOf1(t, 0), B: 30})
+	// Nothing to wait, and nothing left, may be asked all the same.
+	do(t, c, api.Act{Kind: api.ActAsk, User: 1}, api.Event{Kind: api.EvAsk, Id: 2, A: classOf1(t, 0)})
 	u, _ := user.New(s.Key, s.Classes, s.Rotate)
 	for range 1000 {
 		c.Do(api.Act{Kind: api.ActTick})
 	}
 	for i, who := range []int{0, 1, -1, api.MaxInt, api.MinInt} {
 		a := api.Act{Kind: api.ActAsk, S: 1, Business: 1, User: who, Ttl: api.MaxTicks, Budget: 65535}
-		do(t, c, a, api.Event{Kind: api.EvAsk, Tick: 1000, S: 1, Id: 2 + i, A: 4 + u.Class(uint64(who), 1000), B: api.MaxTicks})
+		l := 4 + u.Class(uint64(who), 1000)
+		do(t, c, a, api.Event{Kind: api.EvAsk, Tick: 1000, S: 1, Id: 3 + i, A: l, B: api.MaxTicks})
+		if f, err := c.At(-1, 1, i); err != api.OK || f != (api.Frame{Kind: 1, Request: api.Request{Id: 3 + i, From: -1, To: 1, Level: l, Deadline: api.MaxTicks, Budget: 65535}}) {
+			t.Errorf("on its way: %v, %v", f, err)
+		}
 	}
 }
 

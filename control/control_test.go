@@ -138,9 +138,9 @@ func TestCloseForgetsTheWindow(t *testing.T) {
 	c := made(t, 8, 0, k)
 	window(c, 8, 9)
 	// Were the counts of the first window still there, the threshold would go by them.
-	c.Saw(0)
+	c.Saw(7)
 	c.Waited(9)
-	if got := c.Close(); got.Threshold != 1 {
+	if got := c.Close(); got.Threshold != 3 {
 		t.Errorf("by the second window's counts alone: %v", got)
 	}
 	if got := c.Close(); got.Verdict != api.Calm {
@@ -185,8 +185,19 @@ func TestRestart(t *testing.T) {
 	if got := c.Close(); got.Verdict != api.Calm || got.Moved || got.Dimmed {
 		t.Errorf("the window is not forgotten: %v", got)
 	}
+	// Nor are the counts there any more by which the threshold went down.
+	other.Cut = 50
+	c.Push(other)
+	window(c, 8)
+	c.Saw(5)
 	c.Restart()
-	expect(t, c, 8, 2, 4, 0)
+	c.Saw(7)
+	c.Waited(99)
+	if got := c.Close(); got.Threshold != 7 {
+		t.Errorf("the counts are not forgotten: %v", got)
+	}
+	c.Restart()
+	expect(t, c, 8, 2, 6, 0)
 	// The dimmer is as at the beginning: it may go down at once, and the way too.
 	if got := window(c, 8, 9); !got.Moved || !got.Dimmed {
 		t.Errorf("behind Restart: %v", got)

@@ -264,6 +264,23 @@ func TestWhatIsShown(t *testing.T) {
 	}
 }
 
+func TestLinks(t *testing.T) {
+	d := desk.New()
+	d.Say("usual 2")
+	says(t, d, "links", "")
+	for range 3 {
+		d.Say("ask 0 0 1 30 5")
+	}
+	says(t, d, "links", "link client 0 3\n")
+	d.Say("deliver client 0 0")
+	d.Say("deliver client 0 0")
+	d.Say("fail 0 1")
+	d.Say("done 0 2")
+	says(t, d, "links", "link client 0 1\nlink 0 client 1\nlink 0 1 1\n")
+	d.Say("twin 0 client 0")
+	says(t, d, "links", "link client 0 1\nlink 0 client 2\nlink 0 1 1\n")
+}
+
 func TestTellAndTrace(t *testing.T) {
 	d, _, events := busy(t)
 	for said, many := range map[string]int{"0": 0, "1": 1, "7": 7, "-3": 0, "9223372036854775807": len(events), strconv.Itoa(len(events)): len(events), "-9223372036854775808": 0} {

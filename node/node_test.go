@@ -311,8 +311,16 @@ func TestNumbersOfCallsOfOtherServices(t *testing.T) {
 	r := ask(1, 0)
 	r.To = 2
 	n.Request(r)
-	if out, _ := n.Done(1); out.Events[0].B != 3*api.MaxNumber+1 || out.Events[0].S != 2 || out.Frames[0].Request.Id != 3*api.MaxNumber+1 {
-		t.Errorf("%v", out)
+	out, err := n.Done(1)
+	if want := (api.Event{Kind: api.EvCall, S: 2, Id: 1, A: 1, B: 3*api.MaxNumber + 1}); err != api.OK || len(out.Events) != 1 || out.Events[0] != want {
+		t.Errorf("events %v, %v", out.Events, err)
+	}
+	if want := (api.Request{Id: 3*api.MaxNumber + 1, From: 2, To: 1, Deadline: 1000, Budget: 9}); len(out.Frames) != 1 || out.Frames[0] != (api.Frame{Kind: 1, Request: want}) {
+		t.Errorf("frames %v", out.Frames)
+	}
+	out, err = n.Reply(api.Reply{Id: 3*api.MaxNumber + 1, From: 1, To: 2, Code: api.Good, Threshold: 8, Epoch: 1})
+	if want := (api.Reply{Id: 1, From: 2, To: -1, Code: api.Good, Threshold: 8, Epoch: 1, Tier: 1}); err != api.OK || len(out.Frames) != 1 || out.Frames[0] != (api.Frame{Kind: 2, Reply: want}) {
+		t.Errorf("frames %v, %v", out.Frames, err)
 	}
 }
 
@@ -325,6 +333,9 @@ func TestAFailedCallFailsTheJob(t *testing.T) {
 		t.Errorf("needs: %v", needs)
 	}
 	n.Jobs()[0].Needs[0] = 77
+	if needs := n.Jobs()[0].Needs; !slices.Equal(needs, []int{number, number + 1}) {
+		t.Errorf("needs are shared: %v", needs)
+	}
 	out, err := n.Reply(api.Reply{Id: number + 1, From: 2, To: 0, Code: api.Late, Threshold: 8, Epoch: 1})
 	want(t, n, out, err, []api.Event{{Kind: api.EvLearn, Id: 1, A: 2, B: 8}, {Kind: api.EvHeard, Id: number + 1, Code: api.Late, A: 2, B: 1},
 		{Kind: api.EvEnd, Id: 1, Code: api.Failed, A: 2}, {Kind: api.EvStart, Id: 2, B: 1000}}, answer(1, api.Failed))
@@ -539,6 +550,24 @@ func TestWindowsEndByTicks(t *testing.T) {
 	tick(t, n, 9)
 	if out, _ := n.Tick(); out.Events[0].Code != api.Over {
 		t.Errorf("the next window: %v", out.Events)
+	}
+}
+
+func TestTheThresholdGoesByWhatCame(t *testing.T) {
+	n := plain(t, func(x *api.Service) { x.Queue, x.Window, x.Knobs.Cut = 16, 12, 50 })
+	for id := range 8 {
+		n.Request(ask(id, id))
+	}
+	// What comes twice counts once.
+	for range 9 {
+		n.Request(ask(0, 0))
+	}
+	tick(t, n, 11)
+	n.Done(0)
+	out, err := n.Tick()
+	want(t, n, out, err, []api.Event{{Kind: api.EvClose, Id: 2, Code: api.Over, A: 4, B: 0}})
+	if n.Threshold() != 4 || n.Tier() != 0 || n.Epoch() != 2 || n.Calm() != 2+4+2 {
+		t.Errorf("threshold %d, tier %d, epoch %d, calm %d", n.Threshold(), n.Tier(), n.Epoch(), n.Calm())
 	}
 }
 

@@ -58,6 +58,9 @@ func TestOf(t *testing.T) {
 	if got, _, _ := report.Of(0, three...); got.Share != 75 {
 		t.Errorf("3 of 4: %v", got)
 	}
+	if got, _, _ := report.Of(0, three[:9]...); got.Share != 100 {
+		t.Errorf("3 of 3: %v", got)
+	}
 }
 
 func TestLevels(t *testing.T) {

@@ -93,6 +93,8 @@ func TestWrong(t *testing.T) {
 		"announced":                {[]api.Event{closes(1, 2, 3, 5), came(1, 0, 7, 3), learns(2, 0, 2, 3, 5), cut(2, 0, 7, 2)}, -1},
 		"a level that passes":      {[]api.Event{closes(1, 2, 3, 5), came(1, 0, 7, 2), learns(2, 0, 2, 3, 5), cut(2, 0, 7, 2)}, 3},
 		"not come":                 {[]api.Event{closes(1, 2, 3, 5), learns(2, 0, 2, 3, 5), cut(2, 0, 7, 2), came(2, 0, 7, 3)}, 2},
+		"not come, none passes":    {[]api.Event{closes(1, 2, 0, 5), learns(2, 0, 2, 0, 5), cut(2, 0, 7, 2)}, 2},
+		"come, none passes":        {[]api.Event{closes(1, 2, 0, 5), came(1, 0, 7, 0), learns(2, 0, 2, 0, 5), cut(2, 0, 7, 2)}, -1},
 		"come elsewhere":           {[]api.Event{closes(1, 2, 3, 5), came(1, 1, 7, 3), learns(2, 0, 2, 3, 5), cut(2, 0, 7, 2)}, 3},
 		"another one has come":     {[]api.Event{closes(1, 2, 3, 5), came(1, 0, 8, 3), learns(2, 0, 2, 3, 5), cut(2, 0, 7, 2)}, 3},
 		"the last one that came":   {[]api.Event{closes(1, 2, 3, 5), came(1, 0, 7, 2), came(1, 0, 7, 3), learns(2, 0, 2, 3, 5), cut(2, 0, 7, 2), came(2, 0, 7, 2), cut(2, 0, 7, 2)}, 6},
