@@ -8,7 +8,7 @@ import (
 	"lockkeeper/seen"
 )
 
-func make1(t *testing.T, most int) *seen.Seen {
+func made(t *testing.T, most int) *seen.Seen {
 	t.Helper()
 	s, err := seen.New(most)
 	if s == nil || err != api.OK {
@@ -19,7 +19,7 @@ func make1(t *testing.T, most int) *seen.Seen {
 
 func TestNewExaminesTheRoom(t *testing.T) {
 	for _, most := range []int{0, 1, 255, 256} {
-		if s := make1(t, most); s.Len() != 0 || len(s.All()) != 0 {
+		if s := made(t, most); s.Len() != 0 || len(s.All()) != 0 {
 			t.Errorf("New(%d) has numbers", most)
 		}
 	}
@@ -31,7 +31,7 @@ func TestNewExaminesTheRoom(t *testing.T) {
 }
 
 func TestTheOldestLeaves(t *testing.T) {
-	s := make1(t, 2)
+	s := made(t, 2)
 	for i, want := range []bool{true, true, false, true, true} {
 		if got := s.Note([]int{5, 6, 5, 7, 5}[i]); got != want {
 			t.Errorf("note %d: %v", i, got)
@@ -61,7 +61,7 @@ func (s *slow) note(id int) bool {
 
 func TestAgainstAPlainList(t *testing.T) {
 	for _, most := range []int{0, 1, 2, 3, 7, 256} {
-		s, other := make1(t, most), slow{most: most}
+		s, other := made(t, most), slow{most: most}
 		n := uint32(1)
 		for i := 0; i < 3000; i++ {
 			n = n*1664525 + 1013904223
@@ -84,7 +84,7 @@ func TestAgainstAPlainList(t *testing.T) {
 }
 
 func TestClearLetsGoOfAll(t *testing.T) {
-	s := make1(t, 3)
+	s := made(t, 3)
 	for _, id := range []int{1, 2, 3, 4} {
 		s.Note(id)
 	}
@@ -98,7 +98,7 @@ func TestClearLetsGoOfAll(t *testing.T) {
 }
 
 func TestAnswersAreNewMemory(t *testing.T) {
-	s := make1(t, 3)
+	s := made(t, 3)
 	s.Note(1)
 	s.Note(2)
 	s.All()[0] = 77
@@ -108,7 +108,7 @@ func TestAnswersAreNewMemory(t *testing.T) {
 }
 
 func TestNilZeroAndNoRoom(t *testing.T) {
-	for name, s := range map[string]*seen.Seen{"nil": nil, "zero": {}, "no room": make1(t, 0)} {
+	for name, s := range map[string]*seen.Seen{"nil": nil, "zero": {}, "no room": made(t, 0)} {
 		for i := 0; i < 2; i++ {
 			if !s.Note(5) || s.Has(5) || s.Len() != 0 || len(s.All()) != 0 {
 				t.Errorf("%s keeps a number", name)
